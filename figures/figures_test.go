@@ -193,7 +193,7 @@ func TestP24_3Ends(t *testing.T) {
 		{nil, inf, -inf, nan}, {[]float64{3}, 3, 3, 3}, {[]float64{zero, nega}, nega, zero, zero}, {[]float64{nega, zero}, nega, zero, zero}, {[]float64{nega, nega}, nega, nega, nega},
 		{[]float64{nega}, nega, nega, nega}, {[]float64{zero, nega, nega}, nega, zero, nega}, {[]float64{nan}, nan, nan, nan}, {[]float64{1, nan}, nan, nan, nan}, {[]float64{nan, 1, 2}, nan, nan, nan},
 		{[]float64{-inf, nan}, nan, nan, nan}, {[]float64{3, 1, 2}, 1, 3, 2}, {[]float64{4, 1, 3, 2}, 1, 4, 2.5}, {[]float64{inf}, inf, inf, inf}, {[]float64{-inf}, -inf, -inf, -inf}, {[]float64{inf, -inf}, -inf, inf, nan},
-		{[]float64{inf, inf}, inf, inf, inf}, {[]float64{huge, huge}, huge, huge, inf}, {[]float64{tiny, tiny, tiny, tiny}, tiny, tiny, tiny}, {[]float64{tiny, zero}, zero, tiny, zero}, {[]float64{5, 5, 1}, 1, 5, 5},
+		{[]float64{inf, inf}, inf, inf, inf}, {[]float64{huge, huge}, huge, huge, inf}, {[]float64{tiny, tiny, tiny, tiny}, tiny, tiny, tiny}, {[]float64{tiny, zero}, zero, tiny, zero}, {[]float64{5, 5, 1}, 1, 5, 5}, {[]float64{5, 1, 4, 2, 3}, 1, 5, 3}, {[]float64{9, 1, 8, 2, 7, 3}, 1, 9, 5}, {[]float64{7, -1, 6, 0, 5, 1, 4}, -1, 7, 4},
 		{[]float64{-1, -3, inf, -2}, -3, inf, -1.5},
 	} {
 		was := slices.Clone(c.l)
