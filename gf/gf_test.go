@@ -2,6 +2,7 @@ package gf_test
 
 import (
 	"math"
+	"sync"
 	"testing"
 
 	"helix/api"
@@ -31,6 +32,26 @@ func power(a byte, n int) byte {
 		x = product(x, a)
 	}
 	return x
+}
+
+// It stands first, so that Div's first call is one of those that come at once.
+func TestP3_1DivFromManyAtOnce(t *testing.T) {
+	var all sync.WaitGroup
+	var wrong [16]int
+	for i := range wrong {
+		all.Go(func() {
+			for a := range 256 {
+				b := byte(16*i + 1)
+				if q, e := gf.Div(byte(a), b); e != api.OK || product(q, b) != byte(a) {
+					wrong[i]++
+				}
+			}
+		})
+	}
+	all.Wait()
+	if wrong != [16]int{} {
+		t.Error("wrong answers", wrong)
+	}
 }
 
 func TestP3_1Mul(t *testing.T) {
@@ -66,7 +87,7 @@ func TestP3_1InvAndDiv(t *testing.T) {
 		}
 		for a := range 256 {
 			q, e := gf.Div(byte(a), byte(b))
-			if e != api.OK || product(q, byte(b)) != byte(a) {
+			if e != api.OK || product(q, byte(b)) != byte(a) || q != gf.Mul(byte(a), x) {
 				t.Fatalf("%d by %d: %d, %d", a, b, q, e)
 			}
 		}
