@@ -4,6 +4,7 @@ import (
 	"bytes"
 	"hash/crc32"
 	"math/rand"
+	"sync"
 	"testing"
 
 	"helix/crc"
@@ -31,6 +32,21 @@ func step(c uint32, b byte) uint32 {
 	return c
 }
 
+// It stands first, so that Next's first call is one of those that come at once.
+func TestP7_2NextFromManyAtOnce(t *testing.T) {
+	var all sync.WaitGroup
+	var sums [16]uint32
+	for i := range sums {
+		all.Go(func() { sums[i] = crc.Next(0, []byte("123456789")) })
+	}
+	all.Wait()
+	for i, sum := range sums {
+		if sum != 0xcbf43926 {
+			t.Errorf("call %d: %#x", i, sum)
+		}
+	}
+}
+
 func TestP7_1Step(t *testing.T) {
 	r := rand.New(rand.NewSource(1))
 	for i := range 20000 {
@@ -52,7 +68,7 @@ func TestP7_1Table(t *testing.T) {
 		}
 	}
 	table[7] = 0
-	if again := crc.Table(); again[7] != step(0, 7) || crc.Step(0, 7) != step(0, 7) {
+	if again := crc.Table(); again[7] != step(0, 7) || crc.Step(0, 7) != step(0, 7) || crc.Next(^uint32(0), []byte{7}) != ^step(0, 7) {
 		t.Error("the table was changed from without")
 	}
 }
@@ -85,7 +101,7 @@ func TestP7_2Next(t *testing.T) {
 	for n := range 200 {
 		b := some(r, n)
 		cut := r.Intn(n + 1)
-		if o := crc.Next(crc.Sum(b[:cut]), b[cut:]); o != crc.Sum(b) {
+		if o := crc.Next(crc.Sum(b[:cut]), b[cut:]); o != crc.Sum(b) || o != crc32.ChecksumIEEE(b) {
 			t.Fatalf("%d bytes, then %d: %#x", cut, n-cut, o)
 		}
 	}
